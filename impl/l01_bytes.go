@@ -80,6 +80,11 @@ func assemble(parts ...string) string {
 	return string(all)
 }
 
+// isTime reports whether t is a time, see chapter 1.
+func isTime(t int64) bool {
+	return t >= 0 && t <= MaxTime
+}
+
 // PutNum: see chapter 2.
 func PutNum(n int64) string {
 	// The shift by 63 is all ones for a negative n, which turns 2n into -2n - 1.
