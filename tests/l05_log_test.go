@@ -893,7 +893,7 @@ func TestLogOfChipsThatAreAlmostValid(t *testing.T) {
 		return chipOf(good(0, encodedAll(numbered(4).Recs...)...), good(0, encodedAll(numbered(6).Recs[4:]...)...), good(0), good(0))
 	}
 	wantLog(t, sample())
-	for what, spoilChip := range map[string]func(n *impl.Nand){
+	for what, change := range map[string]func(n *impl.Nand){
 		"negative Erases":            func(n *impl.Nand) { n.Blocks[3].Erases = -1 },
 		"Erases above the most":      func(n *impl.Nand) { n.Blocks[0].Erases = impl.MaxTime + 1 },
 		"a page too many":            func(n *impl.Nand) { n.Blocks[2].Pages = append(n.Blocks[2].Pages, impl.Page{}) },
@@ -906,7 +906,7 @@ func TestLogOfChipsThatAreAlmostValid(t *testing.T) {
 		"more blocks than there are": func(n *impl.Nand) { n.Blocks = slices.Repeat(n.Blocks, 4) },
 	} {
 		n := sample()
-		spoilChip(&n)
+		change(&n)
 		wantHistOut(t, what, impl.Mount(n), impl.HistOut{Code: impl.ErrForm})
 		wantList(t, what+": Places", impl.Places(n, 1), nil)
 		wantList(t, what, []int64{impl.OpenBlock(n), impl.NextBlock(n, 0)}, []int64{-1, -1})
@@ -1012,29 +1012,48 @@ func loggedChip() impl.Nand {
 	return chipOf(good(3, texts[2], texts[0], texts[0], "junk"), bad(1, texts[3], texts[0]), good(2, texts[1], texts[5]), good(4))
 }
 
-func TestChipsOfTheLogShareNoMemory(t *testing.T) {
-	for name, call := range map[string]func(impl.Nand) impl.NandOut{
-		"Append": func(n impl.Nand) impl.NandOut { return impl.Append(n, write(7, 6, 0, "x"), 0) },
-		"Torn":   func(n impl.Nand) impl.NandOut { return impl.Torn(n, "abc") },
-	} {
-		n := loggedChip()
-		first, second := do(t, n, call), do(t, n, call)
-		want := chipCopy(second.Nand)
-		wantSeparate(t, name, first.Nand)
-		for block := range first.Nand.Blocks {
-			first.Nand.Blocks[block] = impl.Block{Erases: 99, Bad: true}
-		}
-		if !sameChip(n, loggedChip()) || !sameChip(second.Nand, want) {
-			t.Errorf("%s: a change of a result changed something else", name)
-		}
-		for block := range n.Blocks {
-			spoil(n.Blocks[block].Pages, impl.Page{Used: true, Data: "later"})
-		}
-		spoil(n.Blocks, impl.Block{})
-		if !sameChip(second.Nand, want) {
-			t.Errorf("%s: a change of the argument changed the result", name)
+// spoilChip changes everything of a chip, also behind its slices.
+func spoilChip(n impl.Nand) {
+	for block := range n.Blocks {
+		spoil(n.Blocks[block].Pages, impl.Page{Used: true, Data: "wrong"})
+	}
+	spoil(n.Blocks, impl.Block{Erases: 99, Bad: true})
+}
+
+// wantOwnMemory requires that a call succeeds, and that its result shares no memory with its argument or with another result.
+func wantOwnMemory(t *testing.T, what string, sample func() impl.Nand, call func(impl.Nand) impl.NandOut) {
+	t.Helper()
+	n := sample()
+	first, second := do(t, n, call), do(t, n, call)
+	if first.Code != impl.OK {
+		t.Fatalf("%s returns the code %d", what, first.Code)
+	}
+	want := chipCopy(second.Nand)
+	wantSeparate(t, what, first.Nand)
+	spoilChip(first.Nand)
+	if !sameChip(n, sample()) || !sameChip(second.Nand, want) {
+		t.Errorf("%s: a change of a result changed something else", what)
+	}
+	spoilChip(n)
+	if !sameChip(second.Nand, want) {
+		t.Errorf("%s: a change of the argument changed the result", what)
+	}
+}
+
+// wantRepeatable requires that the same calls always return the same.
+func wantRepeatable(t *testing.T, answers func() []any) {
+	t.Helper()
+	first := answers()
+	for range 5 {
+		if again := answers(); !reflect.DeepEqual(first, again) {
+			t.Fatalf("the same calls return\n%+v and\n%+v", first, again)
 		}
 	}
+}
+
+func TestChipsOfTheLogShareNoMemory(t *testing.T) {
+	wantOwnMemory(t, "Append", loggedChip, func(n impl.Nand) impl.NandOut { return impl.Append(n, write(7, 6, 0, "x"), 0) })
+	wantOwnMemory(t, "Torn", loggedChip, func(n impl.Nand) impl.NandOut { return impl.Torn(n, "abc") })
 }
 
 func TestMountedHistoriesShareNoMemory(t *testing.T) {
@@ -1106,14 +1125,8 @@ func TestCallsOfTheLogAreRepeatable(t *testing.T) {
 	random := rand.New(rand.NewSource(17))
 	for range 100 {
 		n := randomChip(random)
-		answers := func() []any {
+		wantRepeatable(t, func() []any {
 			return []any{impl.Mount(n), impl.Places(n, 1), impl.NextBlock(n, 1), impl.Append(n, write(1, 0, 0, ""), 1), impl.Torn(n, "abc")}
-		}
-		first := answers()
-		for range 5 {
-			if again := answers(); !reflect.DeepEqual(first, again) {
-				t.Fatalf("the same calls return\n%+v and\n%+v", first, again)
-			}
-		}
+		})
 	}
 }
