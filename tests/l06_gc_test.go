@@ -71,18 +71,11 @@ func refRoom(n impl.Nand) int64 {
 	return int64(room)
 }
 
-func refGc(n impl.Nand, steps int64) impl.NandOut {
-	h := refMount(n)
-	if h.Code != impl.OK {
-		return impl.NandOut{Code: h.Code}
-	}
-	loads := refLoads(n)
-	victim := refVictim(n, loads)
-	if victim < 0 {
-		return impl.NandOut{Code: impl.ErrNone}
-	}
+// refEmptied moves the load of a block to other blocks and erases the block, or does the first steps of that.
+func refEmptied(n impl.Nand, block, steps int64) impl.NandOut {
+	recs := refMount(n).Hist.Recs
 	chip := chipCopy(n)
-	load := loads[victim]
+	load := refLoads(n)[block]
 	for i := range load {
 		if int64(i) >= steps {
 			return impl.NandOut{Nand: chip}
@@ -91,17 +84,28 @@ func refGc(n impl.Nand, steps int64) impl.NandOut {
 		if next < 0 {
 			return impl.NandOut{Code: impl.ErrFull}
 		}
-		at := slices.IndexFunc(h.Hist.Recs, func(r impl.Rec) bool { return r.Seq == load[i] })
-		chip = programmed(chip, next, encoded(h.Hist.Recs[at]))
+		at := slices.IndexFunc(recs, func(r impl.Rec) bool { return r.Seq == load[i] })
+		chip = programmed(chip, next, encoded(recs[at]))
 	}
 	if steps <= int64(len(load)) {
 		return impl.NandOut{Nand: chip}
 	}
-	if chip.Blocks[victim].Erases == impl.MaxTime {
+	if chip.Blocks[block].Erases == impl.MaxTime {
 		return impl.NandOut{Code: impl.ErrFull}
 	}
-	chip.Blocks[victim] = good(chip.Blocks[victim].Erases + 1)
+	chip.Blocks[block] = good(chip.Blocks[block].Erases + 1)
 	return impl.NandOut{Nand: chip}
+}
+
+func refGc(n impl.Nand, steps int64) impl.NandOut {
+	if code := refMount(n).Code; code != impl.OK {
+		return impl.NandOut{Code: code}
+	}
+	victim := refVictim(n, refLoads(n))
+	if victim < 0 {
+		return impl.NandOut{Code: impl.ErrNone}
+	}
+	return refEmptied(n, victim, steps)
 }
 
 // someSteps are numbers of steps from none to more than any collection has.
@@ -431,28 +435,53 @@ func (l *life) wantAll(t *testing.T) {
 	}
 }
 
+// tear lets the power fail, now and then, before a record is written, and returns the record. The last free block is left.
+func (l *life) tear(t *testing.T, random *rand.Rand) impl.Rec {
+	t.Helper()
+	r := l.next(random)
+	if out := torn(t, l.n, encoded(r)); random.Intn(8) == 0 && impl.FreeBlocks(out.Nand) > 0 {
+		l.n = out.Nand
+	}
+	return r
+}
+
+// write appends a record if there is room for it, and reports whether there is.
+func (l *life) write(t *testing.T, r impl.Rec) bool {
+	t.Helper()
+	out := appendRec(t, l.n, r, 1)
+	if out.Code != impl.OK {
+		return false
+	}
+	l.n = out.Nand
+	l.all = append(l.all, r)
+	l.wantAll(t)
+	return true
+}
+
+// collect does some steps of a collection, and reports whether there was anything to collect.
+func (l *life) collect(t *testing.T, steps int64) bool {
+	t.Helper()
+	out := gc(t, l.n, steps)
+	if out.Code != impl.OK {
+		return false
+	}
+	l.n = out.Nand
+	l.wantAll(t)
+	return true
+}
+
 func TestChipsAtWorkLoseNothing(t *testing.T) {
 	random := rand.New(rand.NewSource(24))
 	appended, collected, interrupted := 0, 0, 0
 	for i := range int64(30) {
 		l := life{n: impl.NandNew(3 + i%5)}
 		for range 60 {
-			r := l.next(random)
-			// The page of a record can be torn before the record is written.
-			if out := torn(t, l.n, encoded(r)); random.Intn(8) == 0 && impl.FreeBlocks(out.Nand) > 0 {
-				l.n = out.Nand
-			}
-			if out := appendRec(t, l.n, r, 1); out.Code == impl.OK {
-				l.n = out.Nand
-				l.all = append(l.all, r)
-				l.wantAll(t)
+			if l.write(t, l.tear(t, random)) {
 				appended++
 			}
 			steps := random.Int63n(6)
 			before := impl.Room(l.n)
-			if out := gc(t, l.n, steps); out.Code == impl.OK {
-				l.n = out.Nand
-				l.wantAll(t)
+			if l.collect(t, steps) {
 				if impl.Room(l.n) > before {
 					collected++
 				} else if steps > 0 {

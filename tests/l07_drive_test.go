@@ -82,16 +82,10 @@ func refValue(d impl.Drive, sector, at int64) impl.ValueOut {
 }
 
 func refWear(d impl.Drive) int64 {
-	var erases []int64
-	for _, b := range d.Nand.Blocks {
-		if !b.Bad {
-			erases = append(erases, b.Erases)
-		}
-	}
-	if !refDriveRight(d) || len(erases) == 0 {
+	if !refDriveRight(d) {
 		return 0
 	}
-	return slices.Max(erases) - slices.Min(erases)
+	return refGap(d.Nand)
 }
 
 // deed is an operation on a drive, with the record that it logs, if it does, and what the document requires for a valid drive.
