@@ -171,6 +171,25 @@ func GetText(text string, at int64) TextOut {
 	return TextOut{Text: assemble(text[size.At:end]), At: end}
 }
 
+// readList decodes the number of elements at an offset, at most that many, and the elements behind it. It returns the elements, and false if one is malformed or the text does not end behind the last one.
+func readList[T any](text string, at int64, most int64, read func(text string, at int64) (T, int64, bool)) ([]T, bool) {
+	number := GetNum(text, at)
+	if number.Code != OK || number.N < 0 || number.N > most {
+		return nil, false
+	}
+	var list []T
+	end := number.At
+	for range number.N {
+		element, next, whole := read(text, end)
+		if !whole {
+			return nil, false
+		}
+		list = append(list, element)
+		end = next
+	}
+	return list, end == int64(len(text))
+}
+
 func isLetter(c byte) bool {
 	return c >= 'a' && c <= 'z'
 }
